@@ -1,0 +1,145 @@
+package rules
+
+import (
+	"go/ast"
+	"go/importer"
+	"go/token"
+	"go/types"
+	"strings"
+	"testing"
+)
+
+// ways has the features that the document's section Ways asks of each layer that is built.
+var ways = map[string]string{
+	"token": "range-function array method-expression panic recover defer embedding promoted map label struct-compared",
+}
+
+func TestWays(t *testing.T) {
+	program := typed(t)
+	for layer, wanted := range ways {
+		got := program.waysOf(layer)
+		for _, way := range strings.Fields(wanted) {
+			if !got[way] {
+				t.Errorf("%s does not use: %s", layer, way)
+			}
+		}
+	}
+}
+
+// program is the sources by packages, with their types.
+type program struct {
+	sources map[string][]source
+	packs   map[string]*types.Package
+	info    types.Info
+	set     *token.FileSet
+	library types.Importer
+}
+
+func typed(t *testing.T) *program {
+	t.Helper()
+	p := &program{sources: map[string][]source{}, packs: map[string]*types.Package{}}
+	p.info = types.Info{Types: map[ast.Expr]types.TypeAndValue{}, Uses: map[*ast.Ident]types.Object{}, Selections: map[*ast.SelectorExpr]*types.Selection{}}
+	for _, s := range sources(t) {
+		p.set = s.set
+		p.sources[s.pack()] = append(p.sources[s.pack()], s)
+	}
+	p.library = importer.ForCompiler(p.set, "source", nil)
+	for layer := range ways {
+		if _, err := p.Import("argus/" + layer); err != nil {
+			t.Fatal(err)
+		}
+	}
+	return p
+}
+
+// Import makes a program an importer of its own packages.
+func (p *program) Import(path string) (*types.Package, error) {
+	name, own := strings.CutPrefix(path, "argus/")
+	if !own {
+		return p.library.Import(path)
+	}
+	if pack := p.packs[name]; pack != nil {
+		return pack, nil
+	}
+	var files []*ast.File
+	for _, s := range p.sources[name] {
+		files = append(files, s.tree)
+	}
+	config := types.Config{Importer: p}
+	pack, err := config.Check(path, p.set, files, &p.info)
+	p.packs[name] = pack
+	return pack, err
+}
+
+func (p *program) waysOf(layer string) map[string]bool {
+	got := map[string]bool{}
+	for _, s := range p.sources[layer] {
+		ast.Inspect(s.tree, func(n ast.Node) bool {
+			if way := p.way(n); way != "" {
+				got[way] = true
+			}
+			return true
+		})
+	}
+	return got
+}
+
+// way returns the feature that a part of a source uses, or the empty string.
+func (p *program) way(n ast.Node) string {
+	switch x := n.(type) {
+	case *ast.DeferStmt:
+		return "defer"
+	case *ast.LabeledStmt:
+		return "label"
+	case *ast.MapType:
+		return "map"
+	case *ast.FuncLit:
+		return "closure"
+	case *ast.TypeSwitchStmt:
+		return "type-switch"
+	case *ast.ArrayType:
+		if x.Len != nil {
+			return "array"
+		}
+	case *ast.StructType:
+		for _, f := range x.Fields.List {
+			if len(f.Names) == 0 {
+				return "embedding"
+			}
+		}
+	case *ast.RangeStmt:
+		if _, ok := p.under(x.X).(*types.Signature); ok {
+			return "range-function"
+		}
+	case *ast.Ident:
+		if b, ok := p.info.Uses[x].(*types.Builtin); ok && (b.Name() == "panic" || b.Name() == "recover") {
+			return b.Name()
+		}
+	case *ast.BinaryExpr:
+		if _, ok := p.under(x.X).(*types.Struct); ok && (x.Op == token.EQL || x.Op == token.NEQ) {
+			return "struct-compared"
+		}
+	case *ast.SelectorExpr:
+		return p.wayOfSelection(p.info.Selections[x])
+	}
+	return ""
+}
+
+func (p *program) wayOfSelection(s *types.Selection) string {
+	switch {
+	case s == nil:
+		return ""
+	case len(s.Index()) > 1:
+		return "promoted"
+	case s.Kind() == types.MethodExpr:
+		return "method-expression"
+	}
+	return ""
+}
+
+func (p *program) under(x ast.Expr) types.Type {
+	if t := p.info.Types[x].Type; t != nil {
+		return t.Underlying()
+	}
+	return nil
+}
