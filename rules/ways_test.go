@@ -12,6 +12,7 @@ import (
 // ways has the features that the document's section Ways asks of each layer that is built.
 var ways = map[string]string{
 	"token": "range-function array method-expression panic recover defer embedding promoted map label struct-compared",
+	"tree":  "array panic recover defer closure generic-function method-value range-function embedding promoted map label",
 }
 
 func TestWays(t *testing.T) {
@@ -33,6 +34,7 @@ type program struct {
 	info    types.Info
 	set     *token.FileSet
 	library types.Importer
+	called  map[ast.Expr]bool
 }
 
 func typed(t *testing.T) *program {
@@ -73,6 +75,7 @@ func (p *program) Import(path string) (*types.Package, error) {
 
 func (p *program) waysOf(layer string) map[string]bool {
 	got := map[string]bool{}
+	p.called = map[ast.Expr]bool{}
 	for _, s := range p.sources[layer] {
 		ast.Inspect(s.tree, func(n ast.Node) bool {
 			if way := p.way(n); way != "" {
@@ -87,6 +90,8 @@ func (p *program) waysOf(layer string) map[string]bool {
 // way returns the feature that a part of a source uses, or the empty string.
 func (p *program) way(n ast.Node) string {
 	switch x := n.(type) {
+	case *ast.CallExpr:
+		p.called[ast.Unparen(x.Fun)] = true
 	case *ast.DeferStmt:
 		return "defer"
 	case *ast.LabeledStmt:
@@ -95,6 +100,10 @@ func (p *program) way(n ast.Node) string {
 		return "map"
 	case *ast.FuncLit:
 		return "closure"
+	case *ast.FuncDecl:
+		if x.Type.TypeParams != nil {
+			return "generic-function"
+		}
 	case *ast.TypeSwitchStmt:
 		return "type-switch"
 	case *ast.ArrayType:
@@ -120,12 +129,12 @@ func (p *program) way(n ast.Node) string {
 			return "struct-compared"
 		}
 	case *ast.SelectorExpr:
-		return p.wayOfSelection(p.info.Selections[x])
+		return wayOfSelection(p.info.Selections[x], p.called[x])
 	}
 	return ""
 }
 
-func (p *program) wayOfSelection(s *types.Selection) string {
+func wayOfSelection(s *types.Selection, isCalled bool) string {
 	switch {
 	case s == nil:
 		return ""
@@ -133,6 +142,8 @@ func (p *program) wayOfSelection(s *types.Selection) string {
 		return "promoted"
 	case s.Kind() == types.MethodExpr:
 		return "method-expression"
+	case s.Kind() == types.MethodVal && !isCalled:
+		return "method-value"
 	}
 	return ""
 }
