@@ -13,6 +13,7 @@ import (
 var ways = map[string]string{
 	"token": "range-function array method-expression panic recover defer embedding promoted map label struct-compared",
 	"tree":  "array panic recover defer closure generic-function method-value range-function embedding promoted map label",
+	"kind":  "closure panic recover defer map range-function generic-function embedding promoted label",
 }
 
 func TestWays(t *testing.T) {
