@@ -14,6 +14,7 @@ var ways = map[string]string{
 	"token": "range-function array method-expression panic recover defer embedding promoted map label struct-compared",
 	"tree":  "array panic recover defer closure generic-function method-value range-function embedding promoted map label",
 	"kind":  "closure panic recover defer map range-function generic-function embedding promoted label",
+	"face":  "method-expression array variadic generic-function range-function embedding promoted map label closure",
 }
 
 func TestWays(t *testing.T) {
@@ -107,6 +108,11 @@ func (p *program) way(n ast.Node) string {
 		}
 	case *ast.TypeSwitchStmt:
 		return "type-switch"
+	case *ast.Ellipsis:
+		// The other one is the length of an array.
+		if x.Elt != nil {
+			return "variadic"
+		}
 	case *ast.ArrayType:
 		if x.Len != nil {
 			return "array"
