@@ -15,6 +15,7 @@ var ways = map[string]string{
 	"tree":  "array panic recover defer closure generic-function method-value range-function embedding promoted map label",
 	"kind":  "closure panic recover defer map range-function generic-function embedding promoted label",
 	"face":  "method-expression array variadic generic-function range-function embedding promoted map label closure",
+	"check": "map method-expression panic recover defer closure generic-function struct-compared embedding promoted range-function label",
 }
 
 func TestWays(t *testing.T) {
