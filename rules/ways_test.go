@@ -16,6 +16,7 @@ var ways = map[string]string{
 	"kind":  "closure panic recover defer map range-function generic-function embedding promoted label",
 	"face":  "method-expression array variadic generic-function range-function embedding promoted map label closure",
 	"check": "map method-expression panic recover defer closure generic-function struct-compared embedding promoted range-function label",
+	"mean":  "map method-expression interface-call type-switch panic recover defer closure struct-compared range-function embedding promoted",
 }
 
 func TestWays(t *testing.T) {
@@ -150,10 +151,17 @@ func wayOfSelection(s *types.Selection, isCalled bool) string {
 		return "promoted"
 	case s.Kind() == types.MethodExpr:
 		return "method-expression"
+	case types.IsInterface(s.Recv()) && !isTypeParam(s.Recv()):
+		return "interface-call"
 	case s.Kind() == types.MethodVal && !isCalled:
 		return "method-value"
 	}
 	return ""
+}
+
+func isTypeParam(t types.Type) bool {
+	_, is := t.(*types.TypeParam)
+	return is
 }
 
 func (p *program) under(x ast.Expr) types.Type {
