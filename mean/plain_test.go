@@ -6,6 +6,7 @@ import (
 	"strings"
 
 	"argus/api"
+	"argus/sample"
 )
 
 // plain runs programs in a second way: objects are pointers, iterators are coroutines, and all that leaves something is a panic.
@@ -349,7 +350,7 @@ func (a *activation) except(n api.Node) {
 
 func (a *activation) tagcase(n api.Node) {
 	o := a.expression(n.Kids[0]).object
-	names, _ := divided(a.typed(a.core.Nodes[n.Kids[0]].Type))
+	names, _ := sample.Divided(a.typed(a.core.Nodes[n.Kids[0]].Type))
 	for _, k := range n.Kids[1:] {
 		if arm := a.core.Nodes[k]; arm.Name == names[o.tag] {
 			a.slots[arm.N] = o.vals[0]
@@ -358,25 +359,6 @@ func (a *activation) tagcase(n api.Node) {
 		}
 	}
 	panic(plainSignal{"tag"})
-}
-
-// divided returns the names and the types of the parts of a record or a oneof.
-func divided(t string) (names, types []string) {
-	_, inner, _ := strings.Cut(strings.TrimSuffix(t, "]"), "[")
-	depth, from := 0, 0
-	for i, c := range inner + "," {
-		switch {
-		case c == '[':
-			depth++
-		case c == ']':
-			depth--
-		case c == ',' && depth == 0:
-			name, typ, _ := strings.Cut(inner[from:i], ":")
-			names, types = append(names, name), append(types, typ)
-			from = i + 1
-		}
-	}
-	return names, types
 }
 
 // operation does what is built in.
@@ -405,7 +387,7 @@ func (a *activation) operation(t, name string, args []cell) cell {
 	case "array":
 		return a.ofArray(name, args)
 	}
-	names, _ := divided(t)
+	names, _ := sample.Divided(t)
 	op, part, _ := strings.Cut(name, "_")
 	at := slices.Index(names, part)
 	switch front + " " + op {
@@ -567,7 +549,7 @@ func plainFits(p api.Program, h []api.Obj, v []api.Value, t []string) bool {
 		}
 		of[x.v.N] = x.t
 		o := h[x.v.N]
-		_, types := divided(x.t)
+		_, types := sample.Divided(x.t)
 		switch {
 		case front == "array" && o.Kind == 1:
 			for _, y := range o.Vals {

@@ -41,8 +41,8 @@ func TestLayersCallLowerLayers(t *testing.T) {
 		may, isLayer := calls[s.pack()]
 		found[s.pack()] = true
 		for _, path := range s.imports() {
-			callee := strings.TrimPrefix(path, "argus/")
-			if _, other := calls[callee]; isLayer && other && !slices.Contains(strings.Fields(may), callee) {
+			callee, isOwn := strings.CutPrefix(path, "argus/")
+			if isLayer && isOwn && !slices.Contains(strings.Fields(may), callee) {
 				t.Errorf("%s imports %s", s.path, path)
 			}
 		}

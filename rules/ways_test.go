@@ -17,6 +17,7 @@ var ways = map[string]string{
 	"face":  "method-expression array variadic generic-function range-function embedding promoted map label closure",
 	"check": "map method-expression panic recover defer closure generic-function struct-compared embedding promoted range-function label",
 	"mean":  "map method-expression interface-call type-switch panic recover defer closure struct-compared range-function embedding promoted",
+	"poly":  "closure range-function method-value panic recover defer map embedding promoted generic-function label",
 }
 
 func TestWays(t *testing.T) {
