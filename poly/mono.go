@@ -66,7 +66,12 @@ func (i *instance) turner(names map[string]string) func(t string) string {
 		// A type with new names is never longer than before, so it can be made.
 		switch of, _ := kind.Kind(t); of {
 		case api.TypName:
-			return names[t]
+			name, isThere := names[t]
+			if !isThere {
+				// What is called is no instance, since a need's signature is too long.
+				panic(tooDeep{})
+			}
+			return name
 		case api.TypArray:
 			arg, _, _ := kind.Arg(t)
 			t, _ = kind.Array(turn(arg))

@@ -153,7 +153,8 @@ func plainUses(p api.Program, text string) ([]string, bool) {
 		out = append(out, plainInside(t)...)
 	}
 	slices.Sort(out)
-	return slices.Compact(out), true
+	isNone := func(x string) bool { return !plainInstance(p, x) }
+	return slices.DeleteFunc(slices.Compact(out), isNone), true
 }
 
 // plainAll returns what some instances need, and true, or false if that is too deep: it goes on until nothing new comes.

@@ -74,11 +74,8 @@ func (l *library) uses(text string) []string {
 	for t := range i.calls {
 		named[i.with(t)] = true
 	}
-	// What is named fits, unless a need's signature comes to be too long with the argument.
-	if !l.areInstances(sorted(named)) {
-		panic(tooDeep{})
-	}
-	return sorted(named)
+	// With the argument in it the signature of a need may come to be too long: what does not fit for that is no instance.
+	return slices.DeleteFunc(sorted(named), func(x string) bool { return l.instance(x) == nil })
 }
 
 // instancesInside returns the types inside a type that are of clusters.

@@ -1,6 +1,7 @@
 package poly_test
 
 import (
+	"slices"
 	"strings"
 	"testing"
 
@@ -247,29 +248,64 @@ func TestUsesTooDeep(t *testing.T) {
 	}
 }
 
-// G2: a type of a need that would be too long is asked for only where it keeps what is named from fitting.
+// G2: a type of a need that would be too long is none of the types in an instance; what does not fit for it is no instance.
 func TestUsesOfLongNeeds(t *testing.T) {
 	const source = `
 cluster m[t] is f rep = int proc f(a: m[?t], b: record[a:m[?t],b:m[?t]]) is end end
 cluster c[t] is g where t has f: proc(?t, record[a:?t,b:?t]) rep = int proc g() is end end
 proc s[t]() where t has f: proc(?t, record[a:?t,b:?t]) is end
 proc p[t](a: c[m[?t]]) is end
-proc q[t]() is s{m[?t]}() end`
+proc o[t]() is c[m[?t]]$g() end
+proc q[t]() is s{m[?t]}() end
+proc r[t]() is s{m[?t]}(); s{m[bool]}() end`
 	p := programOf(t, source)
-	for i, want := range map[string]string{"p[int]": "c[m[int]] m[int]", "q[int]": "s[m[int]]"} {
-		if l, e := poly.Uses(p, i); show(l) != want || e != api.OK {
-			t.Errorf("G2: Uses(%s): %q, %d", i, l, e)
+	for _, x := range []struct{ i, uses, long string }{
+		{"p", "c[m[int]] m[int]", "m[" + longArg + "]"},
+		{"o", "c[m[int]] m[int]", "m[" + longArg + "]"},
+		{"q", "s[m[int]]", ""},
+		{"r", "s[m[bool]] s[m[int]]", "s[m[bool]]"},
+	} {
+		for arg, want := range map[string]string{"int": x.uses, longArg: x.long} {
+			if l, e := poly.Uses(p, x.i+"["+arg+"]"); show(l) != want || e != api.OK {
+				t.Errorf("G2: Uses(%s[%s]): %q, %d", x.i, arg, l, e)
+			}
 		}
 	}
-	for _, i := range []string{"p[" + longArg + "]", "q[" + longArg + "]"} {
-		if l, e := poly.Uses(p, i); len(l) > 0 || e != api.ErrDeep {
-			t.Errorf("G2: Uses(%s): %q, %d", i, l, e)
-		}
-		if l, e := poly.All(p, []string{i}); len(l) > 0 || e != api.ErrDeep {
-			t.Errorf("G3: All(%s): %q, %d", i, l, e)
+	for _, i := range []string{"c[m[" + longArg + "]]", "s[m[" + longArg + "]]"} {
+		if _, e := poly.Names(p, []string{i}); e != api.ErrInst {
+			t.Errorf("G4: %d", e)
 		}
 	}
-	if _, e := poly.Names(p, []string{"c[m[" + longArg + "]]"}); e != api.ErrInst {
-		t.Errorf("G4: %d", e)
+}
+
+// G3: a type with an operation that is too long is needed where something does not fit, but for calls.
+func TestAllOfLongNeeds(t *testing.T) {
+	const source = `
+cluster m[t] is f rep = int proc f(a: array[array[m[?t]]]) is end end
+cluster c[t] is g where t has f: proc(array[array[?t]]) rep = int proc g() is end end
+proc s[t]() where t has f: proc(array[array[?t]]) is end
+proc p[t](a: c[m[?t]]) is end
+proc q[t]() is s{m[?t]}() end`
+	const arg = "array[array[array[int]]]"
+	p := programOf(t, source)
+	if l, e := poly.Uses(p, "p["+arg+"]"); show(l) != "m["+arg+"]" || e != api.OK {
+		t.Errorf("G2: %q, %d", l, e)
+	}
+	if l, e := poly.All(p, []string{"p[" + arg + "]"}); len(l) > 0 || e != api.ErrDeep {
+		t.Errorf("G3: %q, %d", l, e)
+	}
+	if is, e := poly.CheckAll(p, nil, []string{"m[" + arg + "]", "p[" + arg + "]"}); is || e != api.OK {
+		t.Errorf("G3: %v, %d", is, e)
+	}
+	called := []string{"q[" + arg + "]"}
+	if l := all(t, p, called...); !slices.Equal(l, called) {
+		t.Errorf("G3: %q", l)
+	}
+	if is, e := poly.CheckAll(p, called, called); !is || e != api.OK {
+		t.Errorf("G3: %v, %d", is, e)
+	}
+	// There is no program in which it calls what is no instance.
+	if q, e := poly.Mono(p, called); len(q.Faces) > 0 || e != api.ErrDeep {
+		t.Errorf("G5: %q, %d", namesOf(q), e)
 	}
 }
