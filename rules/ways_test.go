@@ -18,6 +18,7 @@ var ways = map[string]string{
 	"check": "map method-expression panic recover defer closure generic-function struct-compared embedding promoted range-function label",
 	"mean":  "map method-expression interface-call type-switch panic recover defer closure struct-compared range-function embedding promoted",
 	"poly":  "closure range-function method-value panic recover defer map embedding promoted generic-function label",
+	"flow":  "map method-expression type-switch interface-call panic recover defer range-function array array-compared embedding promoted generic-function closure label",
 }
 
 func TestWays(t *testing.T) {
@@ -135,8 +136,14 @@ func (p *program) way(n ast.Node) string {
 			return b.Name()
 		}
 	case *ast.BinaryExpr:
-		if _, ok := p.under(x.X).(*types.Struct); ok && (x.Op == token.EQL || x.Op == token.NEQ) {
+		if x.Op != token.EQL && x.Op != token.NEQ {
+			break
+		}
+		switch p.under(x.X).(type) {
+		case *types.Struct:
 			return "struct-compared"
+		case *types.Array:
+			return "array-compared"
 		}
 	case *ast.SelectorExpr:
 		return wayOfSelection(p.info.Selections[x], p.called[x])
