@@ -224,7 +224,7 @@ func plainReadsEnd(e *api.End) []int {
 	case api.EndIf, api.EndNext, api.EndYield:
 		return []int{e.A}
 	case api.EndReturn:
-		if e.A >= 0 {
+		if e.A != -1 {
 			return []int{e.A}
 		}
 	case api.EndCall, api.EndOpen:

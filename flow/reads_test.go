@@ -76,6 +76,32 @@ func TestReadsOfEnds(t *testing.T) {
 	}
 }
 
+// H4: a register is named by any number, in ends of no valid flow, too; -1 is none in EndReturn alone, since EndCall writes its A.
+func TestReadsOfEndsWithAnyNumber(t *testing.T) {
+	for _, n := range []int{-1 << 63, -1000000001, -7, -2, -1, 0, 1, 1200, 5000, 1<<63 - 1} {
+		returned := []int{n}
+		if n == -1 {
+			returned = nil
+		}
+		for kind, want := range map[uint8]struct {
+			reads []int
+			to    int
+		}{
+			0: {nil, -1}, api.EndGoto: {nil, -1}, api.EndIf: {[]int{n}, -1}, api.EndReturn: {returned, -1}, api.EndSignal: {nil, -1},
+			api.EndTry: {[]int{n, n, n}, -1}, api.EndCall: {[]int{n, 2, n}, n}, api.EndOpen: {[]int{n, 2, n}, n}, api.EndNext: {[]int{n}, n}, api.EndYield: {[]int{n}, -1}, 77: {nil, -1},
+		} {
+			e := api.End{Kind: kind, A: n, B: n, Args: []int{n, 2, n}, Ins: api.Ins{Op: api.TryStore, To: n, A: n, B: n, Args: []int{n}}}
+			if l, to := flow.ReadsEnd(e), flow.WritesEnd(e); !slices.Equal(l, want.reads) || to != want.to {
+				t.Errorf("H4: Kind %d with %d: %v, %d", kind, n, l, to)
+			}
+		}
+		x := api.Ins{Op: api.InsMove, To: n, A: n}
+		if l, to := flow.Reads(x), flow.Writes(x); !slices.Equal(l, []int{n}) || to != n {
+			t.Errorf("H4: InsMove with %d: %v, %d", n, l, to)
+		}
+	}
+}
+
 // H4: as the second way has it.
 func TestReadsByChance(t *testing.T) {
 	trials(10, 100, func(r *rand.Rand, l []api.Flow) {
@@ -86,7 +112,7 @@ func TestReadsByChance(t *testing.T) {
 						t.Errorf("H4: %v, %d: %v", got, to, x)
 					}
 				}
-				if got, to := flow.ReadsEnd(b.End), flow.WritesEnd(b.End); !slices.Equal(got, plainReadsEnd(&b.End)) && b.End.A >= 0 || to != plainWritesEnd(&b.End) {
+				if got, to := flow.ReadsEnd(b.End), flow.WritesEnd(b.End); !slices.Equal(got, plainReadsEnd(&b.End)) || to != plainWritesEnd(&b.End) {
 					t.Errorf("H4: %v, %d: %v", got, to, b.End)
 				}
 			}

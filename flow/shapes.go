@@ -135,6 +135,17 @@ func readBy(x *api.Ins) iter.Seq[int] {
 	}
 }
 
+// readsA reports whether an end reads its A, whatever number that is: only where something may be returned does -1 say that there is none.
+func (s endShape) readsA(x *api.End) bool {
+	switch s.a {
+	case noReg:
+		return false
+	case returned:
+		return x.A != -1
+	}
+	return !s.writesA
+}
+
 // readByEnd yields the registers that an end reads.
 func readByEnd(x *api.End) iter.Seq[int] {
 	s := endShapeOf(x.Kind)
@@ -142,8 +153,7 @@ func readByEnd(x *api.End) iter.Seq[int] {
 		return readBy(&x.Ins)
 	}
 	return func(yield func(reg int) bool) {
-		// Where A or B may be -1 there is no register then.
-		if s.a != noReg && !s.writesA && x.A >= 0 && !yield(x.A) || !s.isACall {
+		if s.readsA(x) && !yield(x.A) || !s.isACall {
 			return
 		}
 		for _, reg := range x.Args {
