@@ -19,6 +19,7 @@ var ways = map[string]string{
 	"mean":  "map method-expression interface-call type-switch panic recover defer closure struct-compared range-function embedding promoted",
 	"poly":  "closure range-function method-value panic recover defer map embedding promoted generic-function label",
 	"flow":  "map method-expression type-switch interface-call panic recover defer range-function array array-compared embedding promoted generic-function closure label",
+	"lower": "method-expression map interface-call type-switch closure array embedding promoted generic-function range-function panic recover defer",
 }
 
 func TestWays(t *testing.T) {
