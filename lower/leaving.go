@@ -6,7 +6,7 @@ import (
 	"argus/api"
 )
 
-// surrounding is what stands around a statement, where signals and breaks go: loop, iteration, guard, or routine around all.
+// surrounding is what stands around a statement, where signals and breaks go: a loop, an iteration or a guard. Nothing stands around those that leave the routine.
 type surrounding interface{ outer() surrounding }
 
 // outside is what stands around a surrounding.
