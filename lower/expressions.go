@@ -113,9 +113,9 @@ func withOperands(x api.Ins, args []int) api.Ins {
 	return x
 }
 
-// compare makes To tell whether a word is a number.
+// compare makes To, which may be the spare word, tell whether another word is a number.
 func (m *maker) compare(to, word, number int) {
-	other := m.fresh(api.RegWord)
+	other := m.spareWord()
 	m.add(api.Ins{Op: api.InsWord, To: other, N: number})
 	m.add(api.Ins{Op: api.InsEq, To: to, A: word, B: other})
 }

@@ -9,6 +9,7 @@ import (
 	"argus/api"
 	"argus/flow"
 	"argus/lower"
+	"argus/sample"
 )
 
 // How many routines may stand inside each other, and how many objects there may be, is as it was.
@@ -66,6 +67,83 @@ func over(inner ...*node) *node {
 }
 
 func as(inner ...*node) *node { return newNode(api.StWhile, callOf("p", "bool"), seq(inner...)) }
+
+// slotsOfLargest are those of bodies, with further ones: as many as there may be.
+func slotsOfLargest() []string {
+	l := slotsOfBodies()
+	return append(l, slices.Repeat([]string{"int"}, api.MaxSlots-len(l))...)
+}
+
+func mainOf(p api.Program) api.Core { return p.Cores[slices.IndexFunc(p.Cores, isMain)] }
+
+// hasRoom asks for a flow of main that is like it, and has no more registers and blocks than main's slots and nodes account for.
+func hasRoom(t *testing.T, what string, p api.Program) {
+	t.Helper()
+	c, f := mainOf(p), lowered(t, p, "main")
+	if is, e := lower.Like(p, f); !is || e != api.OK || flow.Check(f) != api.OK {
+		t.Errorf("P9.3: %s: %v, %d, %d blocks, %d registers: %d", what, is, e, len(f.Blocks), len(f.Regs), flow.Check(f))
+	}
+	if most := len(c.Slots) + len(c.Nodes) + 1; len(f.Regs) > most {
+		t.Errorf("I1: %s: %d registers, not %d", what, len(f.Regs), most)
+	}
+	// What leaves iterations has up to 300 blocks, and long rows of instructions take some more.
+	if most := len(c.Nodes) + 1 + 300 + 3*len(c.Nodes)/api.MaxIns; len(f.Blocks) > most {
+		t.Errorf("I1: %s: %d blocks, not %d", what, len(f.Blocks), most)
+	}
+}
+
+// wrap is an operation of a type with one argument.
+type wrap struct{ of, name, arg, result string }
+
+// Rows of operations that are the arguments of each other, as long as there may be: each node of them has a value.
+func TestLargestRows(t *testing.T) {
+	t.Parallel()
+	const flags, fields = "oneof[a:int,b:bool]", "record[x:bool]"
+	asks := []wrap{{flags, "make_b", "bool", flags}, {flags, "is_b", flags, "bool"}}
+	rows := map[string][]wrap{
+		"asks for b": asks,
+		"asks for a": {asks[0], {flags, "is_a", flags, "bool"}},
+		"fields":     {{fields, "make", "bool", fields}, {fields, "get_x", fields, "bool"}},
+		"nots":       {{"bool", "not", "bool", "bool"}},
+	}
+	rows["nots and asks"] = slices.Concat(rows["nots"], asks)
+	rows["all"] = slices.Concat(rows["nots and asks"], rows["asks for a"], rows["fields"])
+	p := programOf(t, worker)
+	for name, row := range rows {
+		for i := range uint64(3) {
+			r := rand.New(rand.NewPCG(i, 9))
+			x, kind := newNode(api.ExBool).of(r.IntN(2)).typed("bool"), "bool"
+			for n := 1; n < api.MaxCore-6 || kind != "bool"; n++ {
+				fits := slices.DeleteFunc(slices.Clone(row), func(w wrap) bool { return w.arg != kind })
+				w := sample.Pick(r, fits...)
+				x, kind = opOf(w.of, w.name, w.result, x), w.result
+			}
+			q := withMain(t, p, slotsOfLargest()[2:], newNode(api.StIf, x, seq(newNode(api.StReturn, num(1)))))
+			hasRoom(t, name, q)
+			run(t, q, 0, 1)
+		}
+	}
+}
+
+// Cases that ask for as many parts as they can, each one inside the one before.
+func TestLargestCases(t *testing.T) {
+	t.Parallel()
+	const many = "oneof[a:int,b:int,c:int,d:int,e:int,f:int]"
+	p := programOf(t, worker)
+	for _, arms := range []string{"fedcba", "edcba", "fabcd", "fed", "f", "a"} {
+		body := nest(0, func(inner ...*node) *node {
+			c := newNode(api.StCase, opOf(many, "make_a", many, variable(0, "int")))
+			for _, part := range arms {
+				c.kids = append(c.kids, newNode(api.StArm, seq()).named(string(part)).of(2))
+			}
+			c.kids[len(arms)].kids[0].kids = inner
+			return c
+		})
+		q := withMain(t, p, slotsOfLargest()[2:], body)
+		hasRoom(t, arms, q)
+		run(t, q, 0, 1)
+	}
+}
 
 // The largest cores have flows, whatever they are made of.
 func TestLargestCores(t *testing.T) {
@@ -128,15 +206,11 @@ func TestLargestCores(t *testing.T) {
 			return newNode(api.StExcept, seq(append(inner, do(callOf("p", "bool")))...), when(""))
 		})),
 	} {
-		q := withMain(t, p, slotsOfBodies()[2:], body...)
-		f := lowered(t, q, "main")
-		if n := len(q.Cores[slices.IndexFunc(q.Cores, isMain)].Nodes); n < 780 {
+		q := withMain(t, p, slotsOfLargest()[2:], body...)
+		if n := len(mainOf(q).Nodes); n < 780 {
 			t.Errorf("%s: %d nodes", name, n)
 		}
-		if is, e := lower.Like(q, f); !is || e != api.OK || flow.Check(f) != api.OK {
-			t.Errorf("I1: %s: %v, %d, %d blocks, %d registers: %d", name, is, e, len(f.Blocks), len(f.Regs), flow.Check(f))
-			continue
-		}
+		hasRoom(t, name, q)
 		run(t, q, 0, 1)
 	}
 }
@@ -179,6 +253,7 @@ func TestBodiesByChance(t *testing.T) {
 			nodes = 700
 		}
 		q := withMain(t, p, slotsOfBodies()[2:], m.body(nodes)...)
+		hasRoom(t, "a body by chance", q)
 		l := flowsOf(t, q)
 		for range 3 {
 			args := []int{m.IntN(6) - 1, m.IntN(2)}

@@ -14,12 +14,24 @@ const (
 )
 
 // registers are those of a flow that is made, by their kinds.
-type registers struct{ kinds []uint8 }
+type registers struct {
+	kinds []uint8
+	// spare is a word that all comparisons share, since what is written into it is read at once; nowhere as long as there is none.
+	spare int
+}
 
 // fresh returns a register that was not there before.
 func (r *registers) fresh(kind uint8) int {
 	r.kinds = append(r.kinds, kind)
 	return len(r.kinds) - 1
+}
+
+// spareWord returns the word that holds nothing for longer than it takes to read it.
+func (r *registers) spareWord() int {
+	if r.spare == nowhere {
+		r.spare = r.fresh(api.RegWord)
+	}
+	return r.spare
 }
 
 // place returns the register into which a value is to come.
@@ -30,7 +42,7 @@ func (r *registers) place(into int, kind uint8) int {
 	return r.fresh(kind)
 }
 
-// maker makes the flow of a core. The slots of the core are the first registers; each node needs at most one more, and at most one block, so that no core is too large.
+// maker makes the flow of a core. The slots of the core are the first registers; each node needs at most one more, besides the spare word, and at most one block, so that no core is too large.
 type maker struct {
 	*program
 	registers
@@ -47,7 +59,7 @@ type maker struct {
 // lowered returns the flow of a core.
 func (p *program) lowered(name string, c api.Core) api.Flow {
 	m := &maker{program: p, core: c, expressions: expressions(), statements: statements(), landings: map[leaving]int{}}
-	m.kinds = p.kindsOf(c.Slots)
+	m.registers = registers{p.kindsOf(c.Slots), nowhere}
 	m.at = m.newBlock()
 	m.do(len(c.Nodes) - 1)
 	m.finish()

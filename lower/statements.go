@@ -142,7 +142,7 @@ func (m *maker) tell(n api.Node) {
 
 // branch returns the block in which a tag is a number, and goes on where it is another one.
 func (m *maker) branch(tag, number int) int {
-	is := m.fresh(api.RegWord)
+	is := m.spareWord()
 	m.compare(is, tag, number)
 	block, next := m.newBlock(), m.newBlock()
 	m.end(api.End{Kind: api.EndIf, A: is, To: block, Else: next})
