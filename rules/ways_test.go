@@ -20,6 +20,7 @@ var ways = map[string]string{
 	"poly":  "closure range-function method-value panic recover defer map embedding promoted generic-function label",
 	"flow":  "map method-expression type-switch interface-call panic recover defer range-function array array-compared embedding promoted generic-function closure label",
 	"lower": "method-expression map interface-call type-switch closure array embedding promoted generic-function range-function panic recover defer",
+	"dom":   "range-function closure array array-compared map embedding promoted label generic-function method-value three-index",
 }
 
 func TestWays(t *testing.T) {
@@ -121,6 +122,10 @@ func (p *program) way(n ast.Node) string {
 	case *ast.ArrayType:
 		if x.Len != nil {
 			return "array"
+		}
+	case *ast.SliceExpr:
+		if x.Slice3 {
+			return "three-index"
 		}
 	case *ast.StructType:
 		for _, f := range x.Fields.List {
