@@ -21,6 +21,7 @@ var ways = map[string]string{
 	"flow":  "map method-expression type-switch interface-call panic recover defer range-function array array-compared embedding promoted generic-function closure label",
 	"lower": "method-expression map interface-call type-switch closure array embedding promoted generic-function range-function panic recover defer",
 	"dom":   "range-function closure array array-compared map embedding promoted label generic-function method-value three-index",
+	"ssa":   "map delete range-function closure struct-compared embedding promoted method-value three-index label panic recover defer",
 }
 
 func TestWays(t *testing.T) {
@@ -138,7 +139,7 @@ func (p *program) way(n ast.Node) string {
 			return "range-function"
 		}
 	case *ast.Ident:
-		if b, ok := p.info.Uses[x].(*types.Builtin); ok && (b.Name() == "panic" || b.Name() == "recover") {
+		if b, ok := p.info.Uses[x].(*types.Builtin); ok && (b.Name() == "panic" || b.Name() == "recover" || b.Name() == "delete") {
 			return b.Name()
 		}
 	case *ast.BinaryExpr:
