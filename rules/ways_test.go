@@ -22,6 +22,7 @@ var ways = map[string]string{
 	"lower": "method-expression map interface-call type-switch closure array embedding promoted generic-function range-function panic recover defer",
 	"dom":   "range-function closure array array-compared map embedding promoted label generic-function method-value three-index",
 	"ssa":   "map delete range-function closure struct-compared embedding promoted method-value three-index label panic recover defer",
+	"opt":   "map method-expression range-function struct-compared embedding promoted closure generic-function array label",
 }
 
 func TestWays(t *testing.T) {
