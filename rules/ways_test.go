@@ -23,6 +23,7 @@ var ways = map[string]string{
 	"dom":   "range-function closure array array-compared map embedding promoted label generic-function method-value three-index",
 	"ssa":   "map delete range-function closure struct-compared embedding promoted method-value three-index label panic recover defer",
 	"opt":   "map method-expression range-function struct-compared embedding promoted closure generic-function array label",
+	"share": "label map struct-compared range-function closure generic-function embedding promoted three-index",
 }
 
 func TestWays(t *testing.T) {
