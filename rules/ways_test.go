@@ -24,6 +24,7 @@ var ways = map[string]string{
 	"ssa":   "map delete range-function closure struct-compared embedding promoted method-value three-index label panic recover defer",
 	"opt":   "map method-expression range-function struct-compared embedding promoted closure generic-function array label",
 	"share": "label map struct-compared range-function closure generic-function embedding promoted three-index",
+	"color": "array array-compared range-function closure map label embedding promoted generic-function method-expression panic recover defer",
 }
 
 func TestWays(t *testing.T) {
