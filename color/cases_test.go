@@ -150,6 +150,40 @@ func TestNoColours(t *testing.T) {
 	}
 }
 
+// N2, P14.2: how many numbers a colouring needs that has the greatest one is more than an int says; that is no fewer than a crowd has.
+func TestColoursUpToTheGreatest(t *testing.T) {
+	f := proc("p", "wwri", block(ret(-1), number(0, 1), number(1, 2), put(0), put(1)))
+	for _, x := range []struct {
+		c    []int
+		kind uint8
+		want int
+		e    api.Errno
+	}{
+		{[]int{0, math.MaxInt, 0, 0}, api.RegWord, 0, api.ErrLimit},
+		{[]int{math.MaxInt, 0, 0, 0}, api.RegWord, 0, api.ErrLimit},
+		{[]int{math.MaxInt, math.MaxInt - 1, 0, 0}, api.RegWord, 0, api.ErrLimit},
+		{[]int{math.MaxInt, math.MaxInt, 0, 0}, api.RegWord, 0, api.ErrArg},
+		{[]int{0, math.MaxInt - 1, 0, 0}, api.RegWord, math.MaxInt, api.OK},
+		{[]int{0, math.MaxInt, 0, 0}, api.RegRef, 0, api.OK},
+		{[]int{0, 1, math.MaxInt, math.MaxInt}, api.RegWord, 2, api.OK},
+		{[]int{0, 1, math.MaxInt, math.MaxInt}, api.RegRef, 0, api.OK},
+		{[]int{0, 1, math.MaxInt, math.MaxInt}, api.RegIter, 0, api.OK},
+		{[]int{0, math.MaxInt, 0, 0}, 0, 0, api.ErrArg},
+	} {
+		n, e := color.Needs(f, x.c, x.kind)
+		if n != x.want || e != x.e {
+			t.Errorf("N2: %v, %d: %d, %d", x.c, x.kind, n, e)
+		}
+		if is, e := color.CheckColor(f, x.c); is != (x.e != api.ErrArg || x.kind == 0) || e != api.OK {
+			t.Errorf("N2: %v: %v, %d", x.c, is, e)
+		}
+	}
+	one := proc("p", "w", block(ret(-1), number(0, 1)))
+	if n, e := color.Needs(one, []int{math.MaxInt}, api.RegWord); n != 0 || e != api.ErrLimit {
+		t.Errorf("N2: %d, %d", n, e)
+	}
+}
+
 // The errors, in their order.
 func TestErrors(t *testing.T) {
 	good := sumForm()

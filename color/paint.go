@@ -139,13 +139,13 @@ func (w *work) isRight(colors []int) bool {
 	return true
 }
 
-// needs returns how many numbers the registers of a kind that count have, up to the greatest one.
-func (w *work) needs(colors []int, kind uint8) int {
-	n := 0
+// greatest returns the greatest number that a register of a kind that counts has, or -1.
+func (w *work) greatest(colors []int, kind uint8) int {
+	n := -1
 	for p := range w.places() {
 		for _, reg := range p.written {
 			if w.Regs[reg] == kind {
-				n = max(n, colors[reg]+1)
+				n = max(n, colors[reg])
 			}
 		}
 	}

@@ -1,6 +1,7 @@
 package color_test
 
 import (
+	"math"
 	"slices"
 
 	"argus/api"
@@ -333,15 +334,15 @@ func (p *plain) isRight(c []int) bool {
 	return true
 }
 
-// needs returns how many numbers a right colouring needs.
-func (p *plain) needs(c []int, kind uint8) int {
-	n := 0
+// needs returns how many numbers a right colouring needs, and whether an int can say it.
+func (p *plain) needs(c []int, kind uint8) (int, bool) {
+	n := uint64(0)
 	for reg := range p.Regs {
 		if p.Regs[reg] == kind && p.counts(reg) {
-			n = max(n, c[reg]+1)
+			n = max(n, uint64(c[reg])+1)
 		}
 	}
-	return n
+	return int(n), n <= math.MaxInt
 }
 
 // isCrowd reports whether a list has registers of a kind, strictly ascending, each two of which meet.

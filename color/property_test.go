@@ -99,7 +99,7 @@ func otherColours(r *rand.Rand, f api.Flow, c []int) []int {
 		case 0:
 			c = slices.Delete(c, i, i+1)
 		case 1:
-			c[i] = sample.Pick(r, -1, -1<<63, 1<<40)
+			c[i] = sample.Pick(r, -1, -1<<63, 1<<40, 1<<63-1, 1<<63-2)
 		case 2, 3:
 			j := r.IntN(len(c))
 			c[i], c[j] = c[j], c[i]
@@ -123,7 +123,7 @@ func otherColours(r *rand.Rand, f api.Flow, c []int) []int {
 // P14.1, P14.2: CheckColor and Needs are as a second way has it, and no right colouring needs fewer numbers than a crowd has.
 func TestCheckColorByChance(t *testing.T) {
 	t.Parallel()
-	seen := map[bool]int{}
+	seen, tooMany := map[bool]int{}, 0
 	forms(t, 3, 300, func(r *rand.Rand, f api.Flow) {
 		p := newPlain(f)
 		best := must[[]int](t, f)(color.Color(f))
@@ -136,17 +136,23 @@ func TestCheckColorByChance(t *testing.T) {
 			seen[is]++
 			for _, kind := range kinds {
 				n, e := color.Needs(f, c, kind)
+				needs, isSaid := 0, false
+				if want {
+					needs, isSaid = p.needs(c, kind)
+				}
 				switch {
+				case want && !isSaid && e == api.ErrLimit && n == 0:
+					tooMany++
 				case !want && (e != api.ErrArg || n != 0):
 					t.Fatalf("N2: %v: %d, %d: %+v", c, n, e, f)
-				case want && (e != api.OK || n != p.needs(c, kind) || n < p.pressure(kind)):
+				case want && (!isSaid || e != api.OK || n != needs || n < p.pressure(kind)):
 					t.Fatalf("N2, P14.2: %v: %d, %d: %+v", c, n, e, f)
 				}
 			}
 		}
 	})
-	if seen[true] < 700 || seen[false] < 2500 {
-		t.Errorf("%v", seen)
+	if seen[true] < 700 || seen[false] < 2500 || tooMany < 5 {
+		t.Errorf("%v, %d", seen, tooMany)
 	}
 }
 
