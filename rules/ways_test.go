@@ -25,6 +25,7 @@ var ways = map[string]string{
 	"opt":   "map method-expression range-function struct-compared embedding promoted closure generic-function array label",
 	"share": "label map struct-compared range-function closure generic-function embedding promoted three-index",
 	"color": "array array-compared range-function closure map label embedding promoted generic-function method-expression panic recover defer",
+	"code":  "map array method-expression panic recover defer embedding promoted type-switch interface-call generic-function closure three-index",
 }
 
 func TestWays(t *testing.T) {
