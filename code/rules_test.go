@@ -269,6 +269,8 @@ func TestCallsAtOnce(t *testing.T) {
 func TestArgumentsOfAnySort(t *testing.T) {
 	t.Parallel()
 	seen := map[api.Errno]int{}
+	unwritten := sum()
+	unwritten.Blocks[0].Ins = nil
 	objects(t, 22, 3000, func(r *rand.Rand, f api.Flow, o api.Object) {
 		q := someQuestion(r, f, o)
 		if r.IntN(3) == 0 {
@@ -285,6 +287,8 @@ func TestArgumentsOfAnySort(t *testing.T) {
 			q.f = long()
 		case 2, 3, 4, 5:
 			q.names = q.names[:r.IntN(len(q.names))]
+		case 6:
+			q.f = unwritten
 		}
 		want := q.errors()
 		for i, x := range q.results() {
