@@ -5,6 +5,7 @@ import (
 	"go/importer"
 	"go/token"
 	"go/types"
+	"slices"
 	"strings"
 	"testing"
 )
@@ -26,6 +27,7 @@ var ways = map[string]string{
 	"share": "label map struct-compared range-function closure generic-function embedding promoted three-index",
 	"color": "array array-compared range-function closure map label embedding promoted generic-function method-expression panic recover defer",
 	"code":  "map array method-expression panic recover defer embedding promoted type-switch interface-call generic-function closure three-index",
+	"link":  "closure map range-function embedding promoted generic-function panic recover defer copy three-index method-expression array",
 }
 
 func TestWays(t *testing.T) {
@@ -143,7 +145,7 @@ func (p *program) way(n ast.Node) string {
 			return "range-function"
 		}
 	case *ast.Ident:
-		if b, ok := p.info.Uses[x].(*types.Builtin); ok && (b.Name() == "panic" || b.Name() == "recover" || b.Name() == "delete") {
+		if b, ok := p.info.Uses[x].(*types.Builtin); ok && slices.Contains([]string{"panic", "recover", "delete", "copy"}, b.Name()) {
 			return b.Name()
 		}
 	case *ast.BinaryExpr:
